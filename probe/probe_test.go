@@ -333,6 +333,16 @@ func TestTheTableGetsTwiceAsMany(t *testing.T) {
 	stand(t, filled(t, 5, 8, 21, 1, 3), 21, 0, 0, 0, 1, 0, 3, 8)
 }
 
+func TestWhatMakesTheTableGrowHasItsWeight(t *testing.T) {
+	for _, l := range []int{3, 9, 48} {
+		p, m := made(t, l)
+		for id := 1; id <= min(2<<l-1, 300); id++ {
+			add(t, p, m, id, 10+id)
+			hold(t, p, m)
+		}
+	}
+}
+
 func TestSizes(t *testing.T) {
 	p, _ := made(t, 48)
 	for n := 1; n <= 3000; n++ {
